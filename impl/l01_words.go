@@ -47,9 +47,11 @@ func Unhex(text string) (string, bool) {
 
 func Decimal(n int) string { return strconv.Itoa(n) }
 
-func ReadDecimal(text string) (int, bool) {
+func ReadDecimal(text string) (int, bool) { return readUpTo(text, MaxNumber) }
+
+func readUpTo(text string, most int) (int, bool) {
 	n, err := strconv.Atoi(text)
-	if err != nil || n < 0 || n > MaxNumber {
+	if err != nil || n < 0 || n > most {
 		return 0, false
 	}
 	// Atoi also accepts a plus sign, leading zeros and "-0"; only the text that Decimal writes counts.
