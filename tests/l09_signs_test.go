@@ -124,16 +124,24 @@ func signByWords(text string, at int) (impl.Sign, int) {
 	return impl.Sign{}, -1
 }
 
-func signsByWords(text string) ([]impl.Sign, impl.Fault) {
+// encodingByWords returns the faults that a text of tokens and a text of lines have in common.
+func encodingByWords(text string) impl.Fault {
 	if len(text) > 20000 {
-		return nil, impl.Fault{Code: 1}
+		return impl.Fault{Code: 1}
 	}
 	for at := 0; at < len(text); {
 		_, after := decodedRune(text, at)
 		if after < 0 {
-			return nil, impl.Fault{Code: 2, At: at}
+			return impl.Fault{Code: 2, At: at}
 		}
 		at = after
+	}
+	return impl.Fault{}
+}
+
+func signsByWords(text string) ([]impl.Sign, impl.Fault) {
+	if fault := encodingByWords(text); fault.Code != 0 {
+		return nil, fault
 	}
 	list := []impl.Sign{}
 	for at := 0; at < len(text); {
