@@ -44,8 +44,13 @@ func bareByWords(line string) string {
 	return line[:end]
 }
 
+var (
+	spacesAhead = regexp.MustCompile(`^\x20*`)
+	hyphenAhead = regexp.MustCompile(`^-\x20+`)
+)
+
 func indentByWords(line string) int {
-	return len(regexp.MustCompile(`^\x20*`).FindString(line))
+	return len(spacesAhead.FindString(line))
 }
 
 func linesByWords(text string) ([]impl.Line, impl.Fault) {
@@ -99,7 +104,7 @@ func itemByWords(text string) (string, int, bool) {
 	if text == "-" {
 		return "", 0, true
 	}
-	mark := regexp.MustCompile(`^-\x20+`).FindString(text)
+	mark := hyphenAhead.FindString(text)
 	if mark == "" {
 		return "", 0, false
 	}
