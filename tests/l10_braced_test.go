@@ -340,14 +340,14 @@ func TestReadBracedOfWhiteSpaceInEachPlace(t *testing.T) {
 }
 
 // orders are all orders of a list.
-func orders(list []string) [][]string {
+func orders[T any](list []T) [][]T {
 	if len(list) == 0 {
-		return [][]string{{}}
+		return [][]T{{}}
 	}
-	all := [][]string{}
+	all := [][]T{}
 	for i := range list {
 		for _, rest := range orders(slices.Concat(list[:i], list[i+1:])) {
-			all = append(all, append([]string{list[i]}, rest...))
+			all = append(all, append([]T{list[i]}, rest...))
 		}
 	}
 	return all

@@ -128,19 +128,6 @@ func withLabel(list []impl.Label, at int, label impl.Label) []impl.Label {
 	return changed
 }
 
-func ordersOfLabels(list []impl.Label) [][]impl.Label {
-	if len(list) == 0 {
-		return [][]impl.Label{{}}
-	}
-	all := [][]impl.Label{}
-	for i := range list {
-		for _, rest := range ordersOfLabels(slices.Concat(list[:i], list[i+1:])) {
-			all = append(all, append([]impl.Label{list[i]}, rest...))
-		}
-	}
-	return all
-}
-
 func wantWords(t *testing.T, kind wordKind, want bool, words ...string) {
 	t.Helper()
 	for _, word := range words {
@@ -422,7 +409,7 @@ func TestLabelsOkOfLongLists(t *testing.T) {
 
 func TestLabelsOkOfKeysInEachOrder(t *testing.T) {
 	for _, list := range [][]impl.Label{numbered(2), numbered(3), numbered(4), numbered(5), numbered(6), labelsOf("A", "1", "a", "2", "aa", "0", "b", "1")} {
-		for _, order := range ordersOfLabels(list) {
+		for _, order := range orders(list) {
 			if slices.Equal(order, list) {
 				wantLabelsOk(t, order)
 			} else {
@@ -443,7 +430,7 @@ func TestLabelsOkOfValuesInEachOrder(t *testing.T) {
 
 func TestSortLabelsOfEachOrder(t *testing.T) {
 	for _, list := range goodLists() {
-		for _, order := range ordersOfLabels(list) {
+		for _, order := range orders(list) {
 			wantSorted(t, order, list)
 		}
 	}
@@ -462,13 +449,13 @@ func TestSortLabelsOfListsThatAreNotValid(t *testing.T) {
 		slices.Reverse(reversed)
 		wantNotSorted(t, list, reversed, slices.Concat(list[1:], list[:1]), slices.Concat(list[len(list)-1:], list[:len(list)-1]))
 	}
-	for _, order := range ordersOfLabels(numbered(7)) {
+	for _, order := range orders(numbered(7)) {
 		wantNotSorted(t, order)
 	}
-	for _, order := range ordersOfLabels(labelsOf("c", "1", "a", "2", "b b", "3", "d", "4")) {
+	for _, order := range orders(labelsOf("c", "1", "a", "2", "b b", "3", "d", "4")) {
 		wantNotSorted(t, order)
 	}
-	for _, order := range ordersOfLabels(labelsOf("c", "1", "a", "2", "b", "-", "d", "4")) {
+	for _, order := range orders(labelsOf("c", "1", "a", "2", "b", "-", "d", "4")) {
 		wantNotSorted(t, order)
 	}
 }
@@ -480,7 +467,7 @@ func TestSortLabelsOfDuplicateKeys(t *testing.T) {
 		labelsOf("a", "1", "a", "1", "a", "1"), labelsOf("a", "3", "a", "1", "a", "2"), labelsOf("a", "1", "a", "1", "b", "1", "b", "1"), labelsOf("k0", "", "k1", "", "k2", "", "k3", "", "k4", "", "k0", ""),
 		labelsOf("k0", "", "k1", "", "k2", "", "k3", "", "k4", "", "k4", "x"), append(numbered(6), numbered(1)...),
 	} {
-		for _, order := range ordersOfLabels(list) {
+		for _, order := range orders(list) {
 			wantNotSorted(t, order)
 			wantNoLabelsOk(t, order)
 		}
@@ -488,7 +475,7 @@ func TestSortLabelsOfDuplicateKeys(t *testing.T) {
 }
 
 func TestSortLabelsMakesLabelsCanonical(t *testing.T) {
-	for _, order := range ordersOfLabels(numbered(6)) {
+	for _, order := range orders(numbered(6)) {
 		sorted, ok := impl.SortLabels(order)
 		again, okAgain := impl.SortLabels(sorted)
 		if line := impl.LabelsLine(sorted); line != "k0=v0,k1=v1,k2=v2,k3=v3,k4=v4,k5=v5" || !ok {
@@ -540,7 +527,7 @@ func TestLabelAtOfListsThatAreNotValid(t *testing.T) {
 }
 
 func TestSameLabelsOfEachPairOfLists(t *testing.T) {
-	lists := slices.Concat(goodLists(), badLists()[:60], ordersOfLabels(numbered(3)))
+	lists := slices.Concat(goodLists(), badLists()[:60], orders(numbered(3)))
 	for _, a := range lists {
 		for _, b := range lists {
 			same := len(a) == len(b)
@@ -819,7 +806,7 @@ func inside(list []impl.Label) (all []impl.Label, arg []impl.Label) {
 }
 
 func TestLabelFunctionsKeepTheirArguments(t *testing.T) {
-	for _, list := range slices.Concat(goodLists(), badLists(), ordersOfLabels(numbered(4)), ordersOfLabels(labelsOf("b", "1", "a", "2", "b", "3"))) {
+	for _, list := range slices.Concat(goodLists(), badLists(), orders(numbered(4)), orders(labelsOf("b", "1", "a", "2", "b", "3"))) {
 		all, arg := inside(list)
 		kept := slices.Clone(all)
 		impl.LabelsOk(arg)
@@ -843,7 +830,7 @@ func overwriteLabels(list []impl.Label) {
 }
 
 func TestSortLabelsReturnsNewMemory(t *testing.T) {
-	for _, list := range slices.Concat(goodLists(), badLists(), ordersOfLabels(numbered(4))) {
+	for _, list := range slices.Concat(goodLists(), badLists(), orders(numbered(4))) {
 		all, arg := inside(list)
 		kept := slices.Clone(all)
 		first, ok := impl.SortLabels(arg)
