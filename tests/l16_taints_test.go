@@ -1105,15 +1105,17 @@ func TestTaintFunctionsKeepTheirArguments(t *testing.T) {
 	}
 }
 
+// overwriteList changes all elements and the capacity behind them.
+func overwriteList[T any](list []T, changed T) {
+	list = list[:cap(list)]
+	for i := range list {
+		list[i] = changed
+	}
+}
+
 func (k listKind[T]) newMemory(t *testing.T, spare []T) {
 	t.Helper()
 	var changed T
-	overwriteAll := func(list []T) {
-		list = list[:cap(list)]
-		for i := range list {
-			list[i] = changed
-		}
-	}
 	for _, list := range k.sortable() {
 		all, arg := between(list, spare)
 		kept := slices.Clone(all)
@@ -1123,11 +1125,11 @@ func (k listKind[T]) newMemory(t *testing.T, spare []T) {
 			t.Errorf("Sort%ss(%s) shares memory", k.name, listed(list))
 		}
 		want := slices.Clone(first)
-		overwriteAll(first)
+		overwriteList(first, changed)
 		if !slices.Equal(all, kept) || !slices.Equal(second, want) {
 			t.Errorf("a change of one result of Sort%ss(%s) changed the argument to %s or the other result to %s", k.name, listed(list), listed(arg), listed(second))
 		}
-		overwriteAll(all)
+		overwriteList(all, changed)
 		if !slices.Equal(second, want) {
 			t.Errorf("a change of the argument %s of Sort%ss changed the result to %s", listed(list), k.name, listed(second))
 		}
